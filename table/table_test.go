@@ -152,20 +152,20 @@ func TestStamps(t *testing.T) {
 		t.Error("no stamps")
 	}
 	for _, l := range [][]api.Stamp{
-		{{"b", 1}, {"a", 4}, {"c", 127}}, {{"b", 1}, {"a", 3}}, {{"a", 4}, {"1", 4}}, {{"a", 5}, {"a", 3}}, {{"big", -1}}, {{"a", 0}},
+		{{Name: "b", Kinds: 1}, {Name: "a", Kinds: 4}, {Name: "c", Kinds: 127}}, {{Name: "b", Kinds: 1}, {Name: "a", Kinds: 3}}, {{Name: "a", Kinds: 4}, {Name: "1", Kinds: 4}}, {{Name: "a", Kinds: 5}, {Name: "a", Kinds: 3}}, {{Name: "big", Kinds: -1}}, {{Name: "a", Kinds: 0}},
 	} {
 		if tab.Stamp(l) || len(tab.Stamps()) != 0 {
 			t.Error(l, tab.Stamps())
 		}
 		put(t, tab, 0, str("a"), in(1), api.OK)
 	}
-	if !tab.Stamp([]api.Stamp{{"b", 7}, {"a", 6}, {"b", 3}}) || !slices.Equal(tab.Stamps(), []api.Stamp{{"b", 3}, {"a", 6}}) {
+	if !tab.Stamp([]api.Stamp{{Name: "b", Kinds: 7}, {Name: "a", Kinds: 6}, {Name: "b", Kinds: 3}}) || !slices.Equal(tab.Stamps(), []api.Stamp{{Name: "b", Kinds: 3}, {Name: "a", Kinds: 6}}) {
 		t.Error(tab.Stamps())
 	}
-	if !tab.Stamp([]api.Stamp{{"a", 12}}) || !slices.Equal(tab.Stamps(), []api.Stamp{{"b", 3}, {"a", 4}}) {
+	if !tab.Stamp([]api.Stamp{{Name: "a", Kinds: 12}}) || !slices.Equal(tab.Stamps(), []api.Stamp{{Name: "b", Kinds: 3}, {Name: "a", Kinds: 4}}) {
 		t.Error(tab.Stamps())
 	}
-	if tab.Stamp([]api.Stamp{{"b", 1}, {"a", 2}}) || !slices.Equal(tab.Stamps(), []api.Stamp{{"b", 3}, {"a", 4}}) {
+	if tab.Stamp([]api.Stamp{{Name: "b", Kinds: 1}, {Name: "a", Kinds: 2}}) || !slices.Equal(tab.Stamps(), []api.Stamp{{Name: "b", Kinds: 3}, {Name: "a", Kinds: 4}}) {
 		t.Error(tab.Stamps())
 	}
 	s := tab.Stamps()
@@ -173,7 +173,7 @@ func TestStamps(t *testing.T) {
 	if tab.Stamps()[0].Kinds != 3 {
 		t.Error("stamps are shared")
 	}
-	l := []api.Stamp{{"a", 127}}
+	l := []api.Stamp{{Name: "a", Kinds: 127}}
 	if !tab.Stamp(l) || l[0].Kinds != 127 {
 		t.Error("an argument was changed")
 	}
