@@ -1,4 +1,4 @@
-// Package dup makes copies that share nothing with what they are copied from.
+// Package dup copies lists and compares them, be they such as may be or not.
 package dup
 
 import (
@@ -7,7 +7,7 @@ import (
 	"ravelin/api"
 )
 
-// The bounds of what is copied: no list that may be is larger, but one that holds itself would have no end.
+// The bounds of what is gone through: no list that may be is larger, but one that holds itself would have no end.
 const (
 	most    = 1 << 25
 	deepest = 1 << 16
@@ -32,6 +32,20 @@ func Type(t api.Type) api.Type {
 		return c
 	}
 	return copied(t, 1)
+}
+
+// Alike tells whether types are alike.
+func Alike(a, b api.Type) bool {
+	left := most
+	var same func(a, b api.Type, deep int) bool
+	same = func(a, b api.Type, deep int) bool {
+		left--
+		if left < 0 || deep > deepest || a.Kind != b.Kind || !slices.Equal(a.Names, b.Names) {
+			return false
+		}
+		return slices.EqualFunc(a.Args, b.Args, func(a, b api.Type) bool { return same(a, b, deep+1) })
+	}
+	return same(a, b, 1)
 }
 
 // Types copies types.

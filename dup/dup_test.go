@@ -26,6 +26,18 @@ func TestType(t *testing.T) {
 	}
 }
 
+func TestAlike(t *testing.T) {
+	a := api.Type{Kind: 42, Names: []string{"a"}, Args: []api.Type{{Kind: -1}}}
+	if !dup.Alike(a, dup.Type(a)) || dup.Alike(a, api.Type{}) || dup.Alike(a, api.Type{Kind: 42, Names: []string{"b"}, Args: a.Args}) || dup.Alike(a, api.Type{Kind: 42, Names: a.Names}) {
+		t.Error("alike")
+	}
+	loop := make([]api.Type, 1)
+	loop[0].Args = loop
+	if dup.Alike(loop[0], loop[0]) {
+		t.Error("a type that holds itself is like none")
+	}
+}
+
 func TestNodes(t *testing.T) {
 	a := []api.Node{{Kind: api.NNil}, {Kind: api.NUn, Text: "-", Kids: []int{0}, At: 3}}
 	b := dup.Nodes(a)
