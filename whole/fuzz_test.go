@@ -1,4 +1,4 @@
-package vm_test
+package whole
 
 import (
 	"flag"
