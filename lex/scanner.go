@@ -25,11 +25,17 @@ func wrongOf(r any) wrong {
 type scanner struct {
 	s     string
 	at    int
-	words map[string]struct{}
+	words map[string]int
 	l     []api.Token
 }
 
-func newScanner(s string) *scanner { return &scanner{s: s, words: words()} }
+func newScanner(s string) *scanner {
+	c := &scanner{s: s, words: map[string]int{}}
+	for n, w := range words {
+		c.words[w] = n
+	}
+	return c
+}
 
 // all reads all tokens; each reader tells whether it took something.
 func (c *scanner) all() []api.Token {
