@@ -7,9 +7,9 @@ import (
 	"ravelin/api"
 )
 
-// The bounds of what is gone through: no list that may be is larger, but one that holds itself would have no end.
+// The bounds of what is gone through: nobody writes a type so large, but one that holds itself would have no end.
 const (
-	most    = 1 << 25
+	most    = 1 << 22
 	deepest = 1 << 16
 )
 
