@@ -47,3 +47,19 @@ func TestAsNarrow(t *testing.T) {
 		t.Error(told)
 	}
 }
+
+// What the checker knows of blocks is what scope.Ends says.
+func TestAsEnds(t *testing.T) {
+	for _, s := range []string{"", "return", "local x", "if true then return end", "if true then return else return 1 end", "if true then return elseif true then else return end", "while true do return end"} {
+		l, _, e := parse.Program(s)
+		if e != api.OK {
+			t.Fatal(s)
+		}
+		c := newChecker(l, api.Scope{})
+		for n := range l {
+			if l[n].Kind == api.NBlock && c.ends(n) != scope.Ends(l, n) {
+				t.Error(s, n)
+			}
+		}
+	}
+}
