@@ -174,6 +174,7 @@ func TestWrong(t *testing.T) {
 		{"local x: {a: () -> int} = 1", 10, api.ErrType}, {"function f(a: {b: {}}) end", 15, api.ErrType}, {"function f(): int | {} end", 20, api.ErrType}, {"local x: int | {} = -\"\"", 15, api.ErrType}, {"local x: int = -\"\" local y: {} | int", 16, api.ErrFit}, {"f(1)", 0, api.ErrScope}, {"break", 0, api.ErrBreak}, {"local x x", 8, api.ErrSyntax},
 		{"local x local f: (int, {a: {}}) -> int", 24, api.ErrType}, {"if -\"\" then local y: {} | int end", 4, api.ErrFit}, {"while -\"\" do end", 7, api.ErrFit}, {"return -\"\"", 8, api.ErrFit}, {"local x = {1, -\"\"}", 15, api.ErrFit}, {"local x = {a = -\"\"}", 16, api.ErrFit},
 		{"local f: (" + strings.Repeat("() -> ", 50) + "int) -> int", 9, api.ErrLong}, {"local f = function(x: " + strings.Repeat("() -> ", 49) + "int) return -\"\" end", 10, api.ErrLong}, {"function f(x: " + strings.Repeat("() -> ", 49) + "int) return -\"\" end", 0, api.ErrLong},
+		{"function f(x: " + strings.Repeat("() -> ", 49) + "int, y: {} | int) end", 0, api.ErrLong}, {"local f = function(x: " + strings.Repeat("() -> ", 49) + "int, y: {} | int) end", 324, api.ErrType},
 		{"local x: () -> int = function(): int | nil return end", 21, api.ErrFit}, {"function f(x: int) end local g: (any, any) -> any = f", 52, api.ErrFit},
 	} {
 		l, e, at, err := check.Source(x.s)

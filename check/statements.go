@@ -33,6 +33,7 @@ func (c *checker) statement(n int, h here) {
 	case api.NLocal:
 		c.vars[c.s.Uses[n]] = c.local(n, h)
 	case api.NFunction:
+		c.outline(kids[0])
 		t := c.signature(kids[0])
 		c.vars[c.s.Uses[n]] = t
 		c.body(kids[0], h, t)
@@ -121,18 +122,32 @@ func (c *checker) part(n int, base api.Type) (api.Type, bool) {
 	return api.Type{}, false
 }
 
+// outline looks whether a function statement's type may be, ahead of all else: what tells no type counts as any for now.
+func (c *checker) outline(n int) {
+	c.arrow(n, func(k int) api.Type {
+		t, _, _ := types.Of(c.l, k)
+		return t
+	})
+}
+
 // signature tells a function's type, of the types that it writes.
 func (c *checker) signature(n int) api.Type {
+	c.known[n] = c.arrow(n, c.written)
+	return c.known[n]
+}
+
+// arrow puts a function's type together, which must be one that may be.
+func (c *checker) arrow(n int, tell func(int) api.Type) api.Type {
 	kids := c.l[n].Kids
-	t := api.Type{Kind: api.TFunc}
-	for _, k := range kids[:len(kids)-2] {
-		t.Args = append(t.Args, c.written(c.l[k].Kids[0]))
+	last := len(kids) - 2
+	t := arrow()
+	for _, k := range kids[:last] {
+		t.Args = append(t.Args, tell(c.l[k].Kids[0]))
 	}
-	t.Args = append(t.Args, c.written(kids[len(kids)-2]))
+	t.Args = append(t.Args, tell(kids[last]))
 	if !types.Check(t) {
 		c.fail(n, api.ErrLong)
 	}
-	c.known[n] = t
 	return t
 }
 
