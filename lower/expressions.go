@@ -25,7 +25,7 @@ func (f *function) own(n int) (int, bool) {
 	return v, !cast && f.p.e.Scope.Vars[v].Fn == f.index && !f.p.e.Scope.Vars[v].Taken
 }
 
-// exp puts an expression's value into a register that nothing else needs.
+// exp puts an expression's value into the register that was taken last, which nothing else needs.
 func (f *function) exp(n, r int) {
 	f.at(n)
 	first := f.count(0)
@@ -118,15 +118,10 @@ func (f *function) field(n, r int) {
 	}
 }
 
-// call puts a call's answer into a register.
+// call puts a call's answer into a register, behind which its arguments stand: it is the last one that is taken.
 func (f *function) call(n, r int) {
 	kids := f.p.l[n].Kids
-	base := r
-	// The arguments stand behind the function, so there must be room behind it.
-	if r != f.count(0)-1 {
-		base = f.count(1)
-	}
-	f.exp(kids[0], base)
+	f.exp(kids[0], r)
 	for _, k := range kids[1:] {
 		f.exp(k, f.count(1))
 	}
@@ -135,10 +130,7 @@ func (f *function) call(n, r int) {
 		loose = 1
 	}
 	f.at(n)
-	f.emit(api.Ins{Op: api.ICall, A: base, B: len(kids) - 1, C: loose})
-	if base != r {
-		f.emit(api.Ins{Op: api.IMove, A: r, B: base})
-	}
+	f.emit(api.Ins{Op: api.ICall, A: r, B: len(kids) - 1, C: loose})
 }
 
 // drop compiles a call whose answer nobody wants.
