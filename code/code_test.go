@@ -189,9 +189,42 @@ func TestSame(t *testing.T) {
 			t.Error(n)
 		}
 	}
-	loop := []api.Type{{Kind: api.TFunc}}
-	loop[0].Args = loop
-	code.Same(api.Image{Shapes: loop}, api.Image{Shapes: loop})
+}
+
+// nested is a type in a type, so many of them; each holds the one within so often, the deepest has this kind.
+func nested(many, often, kind int) api.Type {
+	t := api.Type{Kind: kind}
+	for range many {
+		t = api.Type{Kind: api.TFunc, Args: slices.Repeat([]api.Type{t}, often)}
+	}
+	return t
+}
+
+// P16.2, P1: types that are large, deep, that hold one list again and again, or themselves, wherever an image has types.
+func TestSameTypes(t *testing.T) {
+	places := []func(u api.Type) api.Image{
+		func(u api.Type) api.Image { return api.Image{Shapes: []api.Type{{}, u}} },
+		func(u api.Type) api.Image { return api.Image{Casts: []api.Blame{{}, {To: u}}} },
+		func(u api.Type) api.Image { return api.Image{Protos: []api.Proto{{}, {Types: []api.Type{{}, u}}}} },
+	}
+	loop := func(kind int) api.Type {
+		l := []api.Type{{Kind: api.TFunc}, {Kind: kind}}
+		l[0].Args = l
+		return l[0]
+	}
+	for name, f := range map[string]func(kind int) api.Type{
+		"wide": func(kind int) api.Type {
+			return api.Type{Args: append(make([]api.Type, 1<<22), api.Type{Kind: kind})}
+		},
+		"deep": func(kind int) api.Type { return nested(1<<17, 1, kind) }, "one list often": func(kind int) api.Type { return nested(300, 2, kind) }, "itself": loop,
+	} {
+		a, b, c := f(1), f(1), f(2)
+		for n, place := range places {
+			if !code.Same(place(a), place(a)) || !code.Same(place(a), place(b)) || code.Same(place(a), place(c)) || code.Same(place(c), place(a)) {
+				t.Error(name, n)
+			}
+		}
+	}
 }
 
 // P16.3

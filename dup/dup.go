@@ -34,20 +34,6 @@ func Type(t api.Type) api.Type {
 	return copied(t, 1)
 }
 
-// Alike tells whether types are alike.
-func Alike(a, b api.Type) bool {
-	left := most
-	var same func(a, b api.Type, deep int) bool
-	same = func(a, b api.Type, deep int) bool {
-		left--
-		if left < 0 || deep > deepest || a.Kind != b.Kind || !slices.Equal(a.Names, b.Names) {
-			return false
-		}
-		return slices.EqualFunc(a.Args, b.Args, func(a, b api.Type) bool { return same(a, b, deep+1) })
-	}
-	return same(a, b, 1)
-}
-
 // Types copies types.
 func Types(l []api.Type) []api.Type {
 	c := make([]api.Type, len(l))

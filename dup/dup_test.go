@@ -1,6 +1,7 @@
 package dup_test
 
 import (
+	"slices"
 	"testing"
 
 	"ravelin/api"
@@ -31,10 +32,72 @@ func TestAlike(t *testing.T) {
 	if !dup.Alike(a, dup.Type(a)) || dup.Alike(a, api.Type{}) || dup.Alike(a, api.Type{Kind: 42, Names: []string{"b"}, Args: a.Args}) || dup.Alike(a, api.Type{Kind: 42, Names: a.Names}) {
 		t.Error("alike")
 	}
-	loop := make([]api.Type, 1)
-	loop[0].Args = loop
-	if dup.Alike(loop[0], loop[0]) {
-		t.Error("a type that holds itself is like none")
+}
+
+// tower is a type in a type, so many of them; each holds the one within so often, the deepest has this kind.
+func tower(many, often, kind int) api.Type {
+	t := api.Type{Kind: kind}
+	for range many {
+		t = api.Type{Kind: api.TFunc, Args: slices.Repeat([]api.Type{t}, often)}
+	}
+	return t
+}
+
+// ring is a type that holds itself behind types of these kinds, its own first.
+func ring(kinds ...int) api.Type {
+	l := make([]api.Type, len(kinds))
+	for n, kind := range kinds {
+		next := (n + 1) % len(l)
+		l[n] = api.Type{Kind: kind, Args: l[next : next+1]}
+	}
+	return l[0]
+}
+
+// Types are alike whatever they hold, be it much, deep, one list again and again.
+func TestAlikeLarge(t *testing.T) {
+	for _, x := range []struct {
+		name string
+		make func(kind int) api.Type
+	}{
+		{"wide", func(kind int) api.Type {
+			return api.Type{Kind: 9, Args: append(make([]api.Type, 1<<22), api.Type{Kind: kind})}
+		}},
+		{"wide, with parts", func(kind int) api.Type {
+			return api.Type{Args: append(slices.Repeat([]api.Type{tower(1, 1, 0)}, 1<<16), tower(1, 1, kind))}
+		}},
+		{"deep", func(kind int) api.Type { return tower(1<<18, 1, kind) }},
+		{"one list often", func(kind int) api.Type { return tower(200, 2, kind) }},
+		{"one list often, deep", func(kind int) api.Type { return tower(1<<16, 3, kind) }},
+	} {
+		a, b, c := x.make(1), x.make(1), x.make(2)
+		if !dup.Alike(a, a) || !dup.Alike(a, b) || !dup.Alike(b, a) {
+			t.Error(x.name, "alike")
+		}
+		if dup.Alike(a, c) || dup.Alike(c, a) {
+			t.Error(x.name, "not alike")
+		}
+	}
+}
+
+// Types that hold themselves are alike, if no way through both leads to a difference.
+func TestAlikeRings(t *testing.T) {
+	long := make([]int, 50001)
+	for _, x := range []struct {
+		name string
+		a, b api.Type
+		want bool
+	}{
+		{"one", ring(4), ring(4), true}, {"other kinds", ring(4), ring(5), false}, {"twice round", ring(4, 5), ring(4, 5, 4, 5), true}, {"once and a half", ring(4, 5), ring(4, 5, 4), false}, {"the other way", ring(4, 5), ring(5, 4), false},
+		{"a ring and a tower", ring(api.TFunc), tower(1000, 1, api.TFunc), false}, {"long", ring(long...), ring(long[1:]...), true}, {"long, with a mark", ring(append(long, 1)...), ring(append(long[1:], 1)...), false},
+	} {
+		if dup.Alike(x.a, x.b) != x.want || dup.Alike(x.b, x.a) != x.want || !dup.Alike(x.a, x.a) || !dup.Alike(x.b, x.b) {
+			t.Error(x.name)
+		}
+	}
+	l := make([]api.Type, 2)
+	l[0].Args, l[1].Args = l, l[:1]
+	if !dup.Alike(l[0], l[0]) || dup.Alike(l[0], l[1]) {
+		t.Error("lists that lie in one another")
 	}
 }
 
