@@ -20,10 +20,66 @@ func TestType(t *testing.T) {
 	if types.Show(a) != "{a: nil | int}" || types.Show(b[1]) != "{a: nil | int}" {
 		t.Error(types.Show(a))
 	}
-	loop := make([]api.Type, 1)
-	loop[0].Args = loop
-	if dup.Type(loop[0]).Args[0].Kind != 0 {
-		t.Error("a type that holds itself")
+	behind := []string{"a", "b"}
+	c := dup.Type(api.Type{Names: behind[:1], Args: []api.Type{{Names: behind[:0]}}})
+	if _ = append(c.Names, "c"); behind[1] != "b" {
+		t.Error("what lies behind a list")
+	}
+	if _ = append(c.Args[0].Names, "c"); behind[0] != "a" {
+		t.Error("what lies behind a list without entries")
+	}
+}
+
+// held counts how often each list of types, of names, is met in a type; a list's own ones are looked for once.
+func held(t api.Type) (map[*api.Type]int, map[*string]int) {
+	lists, names := map[*api.Type]int{}, map[*string]int{}
+	work := []api.Type{t}
+	for len(work) > 0 {
+		u := work[len(work)-1]
+		work = work[:len(work)-1]
+		if len(u.Names) > 0 {
+			names[&u.Names[0]]++
+		}
+		if len(u.Args) == 0 {
+			continue
+		}
+		lists[&u.Args[0]]++
+		if lists[&u.Args[0]] == 1 {
+			work = append(work, u.Args...)
+		}
+	}
+	return lists, names
+}
+
+// A copy says the same in lists of its own, each of which stands in it once, if that has an end within the bound.
+func TestTypeLarge(t *testing.T) {
+	part := api.Type{Kind: 9, Names: []string{"a"}, Args: make([]api.Type, 3)}
+	full := api.Type{Names: make([]string, 1<<14)}
+	for _, x := range []struct {
+		name string
+		t    api.Type
+		once bool
+	}{
+		{"small", api.Type{Args: []api.Type{part, part}}, true}, {"wide", api.Type{Kind: 9, Args: append(make([]api.Type, 1<<22), part)}, true}, {"names", api.Type{Args: []api.Type{part, {Names: make([]string, 1<<22)}}}, true}, {"deep", tower(1<<18, 1, 5), true},
+		{"one list often", tower(18, 2, 5), true}, {"one list very often", tower(25, 2, 5), false}, {"one list too often to be counted", tower(300, 2, 5), false}, {"one list of names too often", api.Type{Args: slices.Repeat([]api.Type{full}, 1<<14)}, false},
+		{"a ring", ring(4), false}, {"a longer ring", ring(4, 5, 6), false}, {"beside a ring", api.Type{Kind: 3, Args: []api.Type{part, ring(4, 5), tower(60, 2, 5)}}, false},
+	} {
+		c := dup.Type(x.t)
+		if !dup.Alike(c, x.t) {
+			t.Error(x.name, "not alike")
+		}
+		lists, names := held(x.t)
+		copies, others := held(c)
+		for k, often := range copies {
+			if lists[k] > 0 || x.once && often > 1 {
+				t.Fatal(x.name, "a list of types", lists[k], often)
+			}
+		}
+		for k, often := range others {
+			if names[k] > 0 || x.once && often > 1 {
+				t.Fatal(x.name, "a list of names", names[k], often)
+			}
+		}
 	}
 }
 

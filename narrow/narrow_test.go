@@ -171,6 +171,69 @@ func TestAll(t *testing.T) {
 	}
 }
 
+// nested is a type of a kind in a type of that kind, so many of them, each of which holds the one within so often.
+func nested(kind, many, often int) api.Type {
+	var t api.Type
+	for range many {
+		t = api.Type{Kind: kind, Args: slices.Repeat([]api.Type{t}, often)}
+	}
+	return t
+}
+
+// depth is how deep a type is, going down by the last of its parts.
+func depth(t api.Type) int {
+	n := 0
+	for ; len(t.Args) > 0; n++ {
+		t = t.Args[len(t.Args)-1]
+	}
+	return n
+}
+
+// P12.2, P12.3, P2: types that may not be are answered whole, however large or deep, in lists of their own.
+func TestLarge(t *testing.T) {
+	l := []api.Test{{Var: 1, Kinds: 1}, {Var: 0, Kinds: 126}}
+	for _, kind := range []int{api.TNil, api.TUnion, api.TShape, api.TFunc, 99, -1} {
+		wide := api.Type{Kind: kind, Names: []string{"a"}, Args: append(make([]api.Type, 1<<18), api.Type{Kind: 1})}
+		deep, often := nested(kind, 70000, 1), nested(kind, 200, 2)
+		for _, f := range []func(t api.Type) api.Type{
+			func(t api.Type) api.Type { return narrow.Type(t, 126) }, func(t api.Type) api.Type { return narrow.All(t, 0, nil) }, func(t api.Type) api.Type { return narrow.All(t, 1, l) },
+		} {
+			a, b, c := f(wide), f(deep), f(often)
+			if a.Kind != kind || len(a.Names) != 1 || len(a.Args) != 1<<18+1 || a.Args[1<<18].Kind != 1 {
+				t.Error(kind, "wide", len(a.Args))
+			}
+			if b.Kind != kind || depth(b) != 70000 || c.Kind != kind || depth(c) != 200 || len(c.Args[0].Args) != 2 {
+				t.Error(kind, "deep", depth(b), depth(c))
+			}
+			a.Names[0], a.Args[1<<18].Kind, b.Args[0].Kind, c.Args[0].Kind = "b", 2, 77, 77
+			if wide.Names[0] != "a" || wide.Args[1<<18].Kind != 1 || deep.Args[0].Kind != kind || often.Args[0].Kind != kind {
+				t.Error(kind, "an answer is shared")
+			}
+		}
+	}
+	a := narrow.Type(api.Type{Kind: 99, Args: make([]api.Type, 1<<22+1)}, 127)
+	if len(a.Args) != 1<<22+1 {
+		t.Error(len(a.Args))
+	}
+}
+
+// P1, P2: a type that holds itself.
+func TestRing(t *testing.T) {
+	for _, kind := range []int{api.TUnion, api.TShape, api.TFunc, 99} {
+		l := []api.Type{{Kind: kind, Names: []string{"a"}}, {Kind: kind}}
+		l[0].Args, l[1].Args = l, l[1:]
+		for _, got := range []api.Type{narrow.Type(l[0], 126), narrow.All(l[0], 0, nil), narrow.All(l[0], 0, []api.Test{{Kinds: 1}, {Kinds: 2}})} {
+			if got.Kind != kind || len(got.Names) != 1 || len(got.Args) != 2 || len(got.Args[1].Args) != 1 || len(got.Args[0].Args[0].Args) != 2 {
+				t.Error(kind, len(got.Args))
+			}
+			got.Args[0].Kind, got.Args[1].Args[0].Kind, got.Names[0] = 77, 77, "b"
+		}
+		if l[0].Kind != kind || l[1].Kind != kind || l[0].Names[0] != "a" {
+			t.Error(kind, "an answer is shared")
+		}
+	}
+}
+
 // P12.4
 func TestSound(t *testing.T) {
 	for kinds := range 128 {
