@@ -3,6 +3,7 @@ package lower
 import (
 	"ravelin/api"
 	"ravelin/num"
+	"ravelin/types"
 )
 
 // operand tells a register in which an expression's value is: a variable's own, if it has one and there is no cast.
@@ -111,7 +112,7 @@ func (f *function) field(n, r int) {
 		key := f.count(1)
 		f.load(key, api.Value{Kind: api.Str, S: node.Text})
 		f.emit(api.Ins{Op: api.IGeti, A: r, B: base, C: key})
-	case f.p.e.Types[node.Kids[0]].Kind == api.TShape:
+	case f.p.surely(node.Kids[0], api.TShape):
 		f.emit(api.Ins{Op: api.IGets, A: r, B: base, C: name})
 	default:
 		f.emit(api.Ins{Op: api.IGetf, A: r, B: base, C: name})
@@ -209,9 +210,9 @@ func builtin(name string) int {
 	return api.IYield
 }
 
-// stamp stamps a new table, if its type tells what is in it.
+// stamp stamps a new table, if its type tells what is in it: one of too many parts has no stamps.
 func (f *function) stamp(n, r int) {
-	if t := f.p.e.Types[n]; t.Kind == api.TShape {
+	if t := f.p.e.Types[n]; t.Kind == api.TShape && types.Check(t) {
 		f.emit(api.Ins{Op: api.IStamp, A: r, D: f.p.shape(t, n)})
 	}
 }
@@ -300,7 +301,7 @@ func (f *function) binary(n, r int) {
 	left := f.operand(node.Kids[0])
 	right := f.operand(node.Kids[1])
 	op, ints, turned := operator(node.Text)
-	if f.p.e.Types[node.Kids[0]].Kind == api.TInt && f.p.e.Types[node.Kids[1]].Kind == api.TInt {
+	if f.p.surely(node.Kids[0], api.TInt) && f.p.surely(node.Kids[1], api.TInt) {
 		op = ints
 	}
 	if turned {

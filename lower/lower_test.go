@@ -171,6 +171,64 @@ func TestTooMuch(t *testing.T) {
 	}
 }
 
+// record writes a record of so many fields, each with the value of x.
+func record(many int) string {
+	var b strings.Builder
+	for n := range many {
+		b.WriteString("n" + strconv.FormatInt(int64(n), 16) + "=x,")
+	}
+	return "{" + b.String() + "}"
+}
+
+// P20.1: a record whose type has more than 10,000 parts is compiled; it isn't stamped, and nothing is held to be what its type says.
+func TestParts(t *testing.T) {
+	use := " local y = t.n1 y = y + 1"
+	for _, x := range []struct {
+		s    string
+		want string
+		many int // shapes
+	}{
+		{"local x = 7 local t = " + record(9999) + use, "stamp gets const addi set const return", 1},
+		{"local x = 7 local t = " + record(10000) + use, "seti getf const add set const return", 0},
+		{"local x = 7 local t = " + record(12000) + use, "seti getf const add set const return", 0},
+		{"local x = read(0) local t = " + record(3333) + " write(0, t.n1)", "stamp gets write const return", 1},
+		{"local x = read(0) local t = " + record(3334) + " write(0, t.n1)", "seti getf write const return", 0},
+		{"local s = {a = 1} local x = 7 local y = #" + record(10000) + " x = s.a", "seti len getf set const return", 1},
+	} {
+		image := compiled(t, x.s)
+		if got := names(image.Protos[0]); !strings.HasSuffix(got, x.want) || len(image.Shapes) != x.many {
+			t.Errorf("%.40q: %d shapes, %s", x.s, len(image.Shapes), got[max(0, len(got)-80):])
+		}
+	}
+	x := compiled(t, "local x = 7 function f(a: int): int return a + 1 end local t = "+record(10000))
+	if got := names(x.Protos[1]); got != "const add return const return" {
+		t.Error(got)
+	}
+}
+
+// P20.1: where there would be more words than may be, such a record is too much, too.
+func TestPartsTooMany(t *testing.T) {
+	var l []api.Node
+	add := func(n api.Node) int { l = append(l, n); return len(l) - 1 }
+	var entries []int
+	for n := range 15500 {
+		kid := add(api.Node{Kind: api.NNil})
+		entries = append(entries, add(api.Node{Kind: api.NNamed, Text: "n" + strconv.Itoa(n), Kids: []int{kid}}))
+	}
+	none := add(api.Node{Kind: api.NNone})
+	table := add(api.Node{Kind: api.NTable, Kids: entries})
+	local := add(api.Node{Kind: api.NLocal, Text: "t", Kids: []int{none, table}})
+	block := add(api.Node{Kind: api.NBlock, Kids: []int{local}})
+	add(api.Node{Kind: api.NProgram, Kids: []int{block}})
+	e, at, err := check.Tree(l)
+	if err != api.OK {
+		t.Fatal(at, err)
+	}
+	if x, at, err := lower.Program(l, e); err != api.ErrLong || at < 0 || at >= len(l) || len(x.Protos) != 0 {
+		t.Error(at, err)
+	}
+}
+
 // P2: two images of one program share nothing.
 func TestShared(t *testing.T) {
 	l, e, _, _ := check.Source("local x: any local y: {a: int} = x local z = {a = 1}")

@@ -354,7 +354,11 @@ func TestOracle(t *testing.T) {
 				continue
 			}
 			ends[kind+strings.Fields(brief(got))[0]]++
-			want := newOracle(l, es[n], x.Masks, in).run()
+			o := newOracle(l, es[n], x.Masks, in)
+			want := o.run()
+			if o.refused {
+				t.Fatalf("%s\n%s: a new table refuses its stamps", s, kind)
+			}
 			if !vm.Same(got, want) {
 				t.Fatalf("%s\n%s %v\nvm:     %s %v\noracle: %s %v\n%s", s, kind, in, brief(got), got.Places, brief(want), want.Places, code.Show(x.Protos[0]))
 			}

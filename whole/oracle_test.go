@@ -26,6 +26,7 @@ type oracle struct {
 	fns     map[int64]closure
 	threads []*fiber
 	now     *fiber
+	refused bool // whether a new table refused its stamps
 }
 
 type closure struct {
@@ -458,7 +459,7 @@ func (o *oracle) table(a *act, n int, s *env) api.Value {
 
 func (o *oracle) stamp(n int, t api.Value) {
 	if o.e.Types[n].Kind == api.TShape && !o.heap.Of(t).Stamp(types.Stamps(o.e.Types[n])) {
-		panic("a new table refuses its stamps")
+		o.refused = true
 	}
 }
 
