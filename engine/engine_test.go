@@ -6,6 +6,7 @@ import (
 	"math/rand"
 	"slices"
 	"strconv"
+	"strings"
 	"testing"
 
 	"ravelin/api"
@@ -109,6 +110,71 @@ func unverified(t *testing.T) []byte {
 		t.Fatal(e)
 	}
 	return b
+}
+
+// large is a text whose file has more than 10,000,000 bytes: it casts often to a large type.
+func large() string {
+	var b strings.Builder
+	b.WriteString("local x = read(1) write(0, x) local f: any = nil if f then local t: {")
+	for n := range 2000 {
+		b.WriteString("a" + strconv.Itoa(n) + ":int,")
+	}
+	return strings.TrimSuffix(b.String(), ",") + "} = f" + strings.Repeat(" t=f", 700) + " end"
+}
+
+// P28.2 to P28.4: a text that was added is run however long its file is; one that is loaded may not be as long.
+func TestLarge(t *testing.T) {
+	s := large()
+	file, at, err := run.Compile(s)
+	if at != 0 || err != api.OK || len(file) <= 10000000 {
+		t.Fatal(at, err, len(file))
+	}
+	e := engine.New()
+	if at, err := e.Add("a", s); at != 0 || err != api.OK {
+		t.Fatal(at, err)
+	}
+	for _, x := range []struct {
+		lim  api.Limits
+		want string
+	}{{wide, "done"}, {wide, "done"}, {api.Limits{Fuel: 2}, "fuel"}} {
+		in := api.Inputs{1: {4}}
+		want, _, _ := run.Source(s, in, x.lim)
+		if how, r, err := e.Run("a", in, x.lim); how != x.want || err != api.OK || !vm.Same(r, want) || r.Done != want.Done || r.Slips != 0 {
+			t.Error(how, r, err)
+		}
+	}
+	b, err := e.File("a")
+	if err != api.OK || !bytes.Equal(b, file) {
+		t.Error(len(b), err)
+	}
+	if err := e.Load("b", file); err != api.ErrFile || len(e.Names()) != 1 {
+		t.Error(err)
+	}
+}
+
+// P28.2: a name's program is what came last, be it a text or a file.
+func TestAnew(t *testing.T) {
+	e := engine.New()
+	loaded, _, _ := run.Compile("return 2")
+	for n, want := range []int64{1, 2, 3, 2} {
+		err := api.OK
+		if want == 2 {
+			err = e.Load("a", loaded)
+		} else {
+			_, err = e.Add("a", "return "+strconv.Itoa(int(want)))
+		}
+		how, r, err2 := e.Run("a", api.Inputs{}, wide)
+		if err != api.OK || err2 != api.OK || how != "done" || r.Value.N != want {
+			t.Error(n, how, r.Value, err, err2)
+		}
+		own, _, _ := run.Compile("return " + strconv.Itoa(int(want)))
+		if b, err := e.File("a"); err != api.OK || !bytes.Equal(b, own) {
+			t.Error(n, err)
+		}
+	}
+	if !slices.Equal(e.Names(), []string{"a"}) {
+		t.Error(e.Names())
+	}
 }
 
 // P28.2: a hundred programs, and one more.
